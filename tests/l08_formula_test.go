@@ -677,22 +677,27 @@ func constants(values []impl.Frac) []impl.Node {
 	return list
 }
 
-// TestRandomFormulasChanged sets one field of a valid formula to a number or a value around the ends
+// changedFormula returns a random formula with one field set to a number or a value around the ends
 // of its range.
+func changedFormula(random *rand.Rand) []impl.Node {
+	list := randomFormula(random, 1+random.Intn(6))
+	at := random.Intn(len(list))
+	numbers := []int{-1, 0, 1, at - 1, at, at + 1, 7, 8, 9, 10}
+	switch field := random.Intn(5); field {
+	case 3:
+		list[at].Kind = numbers[random.Intn(len(numbers))]
+	case 4:
+		list[at].Value = append(invalidFracs(), frac(0, 1), frac(1, 2))[random.Intn(len(invalidFracs())+2)]
+	default:
+		list[at] = changedNode(list[at], field, numbers[random.Intn(len(numbers))])
+	}
+	return list
+}
+
 func TestRandomFormulasChanged(t *testing.T) {
 	random := rand.New(rand.NewSource(88))
 	for range 4000 {
-		list := randomFormula(random, 1+random.Intn(6))
-		at := random.Intn(len(list))
-		numbers := []int{-1, 0, 1, at - 1, at, at + 1, 7, 8, 9, 10}
-		switch field := random.Intn(5); field {
-		case 3:
-			list[at].Kind = numbers[random.Intn(len(numbers))]
-		case 4:
-			list[at].Value = append(invalidFracs(), frac(0, 1), frac(1, 2))[random.Intn(len(invalidFracs())+2)]
-		default:
-			list[at] = changedNode(list[at], field, numbers[random.Intn(len(numbers))])
-		}
+		list := changedFormula(random)
 		valid := formulaValid(list)
 		if got := impl.FormulaOk(list); got != valid {
 			t.Errorf("FormulaOk(%v) = %v, want %v", list, got, valid)
